@@ -771,7 +771,7 @@ func allStakes(n int, froms ...int) []api.Stake {
 	return l
 }
 
-// P18.1 to P18.3, P18.6: all rows of up to 4 stakes of two entities, of up to 3 of three, with all that may be added and asked.
+// P18.1 to P18.3, P18.6: all rows of up to 2 or 3 stakes of two and of three entities, with one to three Froms each, some with faults, with all that may be added and asked.
 func TestAllSmallRows(t *testing.T) {
 	for _, x := range []struct {
 		stakes   []api.Stake
